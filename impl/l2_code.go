@@ -70,7 +70,7 @@ func CodeRun(code []Op, vals []int) int {
 // opTakes is how many numbers an op takes from the stack, if it is one; each puts one there.
 func opTakes(op Op, slots int) (int, bool) {
 	if op.Kind == NodeNum {
-		return 0, math.MinInt32 <= op.Num && op.Num <= math.MaxInt32
+		return 0, is32(op.Num)
 	}
 	if op.Kind == NodeName {
 		return 0, 0 <= op.Num && op.Num < slots
@@ -79,6 +79,11 @@ func opTakes(op Op, slots int) (int, bool) {
 		return 1, op.Num == 0
 	}
 	return 2, isPair(op.Kind) && op.Num == 0
+}
+
+// is32 says whether a number is one of 32 bits.
+func is32(num int) bool {
+	return math.MinInt32 <= num && num <= math.MaxInt32
 }
 
 // opFunc does an op to the numbers that stand.
