@@ -470,3 +470,21 @@ func mustBlock(s string) impl.Block {
 	}
 	return b
 }
+
+// spoilt is a text in which a few bytes are others, are gone, or have come.
+func spoilt(r *rand.Rand, s string) string {
+	bytes := "abcpqx12,. -\n()+<=0"
+	text := []byte(s)
+	for range 1 + r.Intn(2) {
+		at := r.Intn(len(text))
+		switch c := bytes[r.Intn(len(bytes))]; r.Intn(3) {
+		case 0:
+			text[at] = c
+		case 1:
+			text = slices.Insert(text, at, c)
+		case 2:
+			text = slices.Delete(text, at, at+1)
+		}
+	}
+	return string(text)
+}
