@@ -65,6 +65,12 @@ func nothingOfBlock(t *testing.T, name string, b impl.Block) {
 			t.Errorf("%s: step: %v %v", name, y, told)
 		}
 	}
+	if of, needs := impl.ReachOf(b), impl.ReachNeeds(b); len(of) > 0 || len(needs) > 0 {
+		t.Errorf("%s: reach: %v %v", name, of, needs)
+	}
+	if cut := impl.ReachCut(b); !same(cut, impl.Block{}) {
+		t.Errorf("%s: cut: %v", name, cut)
+	}
 }
 
 func TestP10NamesOfABlock(t *testing.T) {

@@ -67,6 +67,8 @@ func nothingOfNet(t *testing.T, name string, n impl.Net, was impl.Net) {
 	if o := impl.OneRun(n, []impl.Do{{Kind: impl.DoPush}}); !same(o, impl.One{}) {
 		t.Errorf("%s: run: %v", name, o)
 	}
+	costsNothing(t, name, n)
+	hasNoParts(t, name, n, was)
 }
 
 func TestP17LimitsOfNets(t *testing.T) {
