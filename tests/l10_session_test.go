@@ -322,6 +322,7 @@ func TestP42NewlinesWithinLines(t *testing.T) {
 
 // TestP42AsPromised asks all kinds of lines of nets on all kinds of nodes, holds them against the words of the document, and against the first so many of them.
 func TestP42AsPromised(t *testing.T) {
+	t.Parallel()
 	r := rand.New(rand.NewSource(42))
 	seen := map[string]int{}
 	for _, n := range slices.Concat(wiredNets(r, 160), livelyNets(r, 120)) {
@@ -375,6 +376,7 @@ func TestP42LinesTurned(t *testing.T) {
 
 // TestP43AllIsSafe puts safe at the end of sessions, and told ahead of it.
 func TestP43AllIsSafe(t *testing.T) {
+	t.Parallel()
 	r := rand.New(rand.NewSource(44))
 	for _, n := range shortNets(slices.Concat(wiredNets(r, 220), livelyNets(r, 100)), 40) {
 		asked := someAsked(r, n, 30)
@@ -394,6 +396,7 @@ func TestP43AllIsSafe(t *testing.T) {
 
 // TestP43WhoAsksChangesNothing takes all lines that only ask out of a session: the others are answered as they were.
 func TestP43WhoAsksChangesNothing(t *testing.T) {
+	t.Parallel()
 	r := rand.New(rand.NewSource(45))
 	taken := 0
 	for _, n := range shortNets(slices.Concat(wiredNets(r, 90), livelyNets(r, 40)), 40) {

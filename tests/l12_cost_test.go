@@ -321,6 +321,7 @@ func TestP50AllCostsNoLessThanEach(t *testing.T) {
 }
 
 func TestP51WithoutAWire(t *testing.T) {
+	t.Parallel()
 	r := rand.New(rand.NewSource(51))
 	less, lower := 0, 0
 	for _, n := range costNets(r, 90) {
@@ -346,6 +347,7 @@ func TestP51WithoutAWire(t *testing.T) {
 }
 
 func TestP52ChainsOfWires(t *testing.T) {
+	t.Parallel()
 	r := rand.New(rand.NewSource(52))
 	deeps := map[int]int{}
 	nets := costNets(r, 200)

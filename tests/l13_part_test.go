@@ -372,6 +372,7 @@ func TestP55PartsByHand(t *testing.T) {
 }
 
 func TestP55PartsAreTheirOwnParts(t *testing.T) {
+	t.Parallel()
 	r := rand.New(rand.NewSource(55))
 	whole, single, lower := 0, 0, 0
 	for _, n := range partNets(r, 150) {
@@ -537,6 +538,7 @@ func beside(a, b impl.Net, list []impl.Do) []impl.Do {
 }
 
 func TestP57TwoNetsBesideEachOther(t *testing.T) {
+	t.Parallel()
 	r := rand.New(rand.NewSource(57))
 	nets := partNets(r, 100)
 	beyond, moved, shared := 0, 0, 0

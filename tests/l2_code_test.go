@@ -129,6 +129,7 @@ func checkCode(t *testing.T, x *tree, names []string, vals []int) {
 }
 
 func TestP5CodeComesToWhatItsSumComesTo(t *testing.T) {
+	t.Parallel()
 	for _, x := range upToThreeSigns() {
 		for _, val := range []int{0, -3, lowest, highest + 1} {
 			checkCode(t, x, []string{"x"}, []int{val})

@@ -198,6 +198,7 @@ func TestP12StepsThatAreNone(t *testing.T) {
 }
 
 func TestP12StepsAsPromised(t *testing.T) {
+	t.Parallel()
 	r := rand.New(rand.NewSource(12))
 	moved, most := 0, 0
 	for range 4000 {

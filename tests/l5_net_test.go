@@ -69,6 +69,7 @@ func nothingOfNet(t *testing.T, name string, n impl.Net, was impl.Net) {
 	}
 	costsNothing(t, name, n)
 	hasNoParts(t, name, n, was)
+	isNoPlantOf(t, name, n)
 }
 
 func TestP17LimitsOfNets(t *testing.T) {
@@ -344,6 +345,7 @@ func ringWire(r *rand.Rand, n *impl.Net) {
 }
 
 func TestP17NetsTurned(t *testing.T) {
+	t.Parallel()
 	r := rand.New(rand.NewSource(17))
 	seen := map[int]int{}
 	for range 2000 {
@@ -539,6 +541,7 @@ func relined(r *rand.Rand, s string) string {
 }
 
 func TestP16WhatIsReadIsWrittenJustSo(t *testing.T) {
+	t.Parallel()
 	r := rand.New(rand.NewSource(16))
 	read := 0
 	for range 6000 {

@@ -387,6 +387,7 @@ func keepsPromise20(t *testing.T, n impl.Net, o, p impl.One, d impl.Do, ok bool)
 }
 
 func TestP20DoneAsPromised(t *testing.T) {
+	t.Parallel()
 	r := rand.New(rand.NewSource(21))
 	done, told, wired := 0, 0, 0
 	for range 500 {
@@ -413,6 +414,7 @@ func TestP20DoneAsPromised(t *testing.T) {
 }
 
 func TestP21AllIsDoneOneByOne(t *testing.T) {
+	t.Parallel()
 	r := rand.New(rand.NewSource(22))
 	nets := []impl.Net{mustNet(chainText), starNet()}
 	for range 250 {
@@ -490,6 +492,7 @@ func hasSink(n impl.Net, use string) bool {
 }
 
 func TestP22BlocksThatAreNotWired(t *testing.T) {
+	t.Parallel()
 	r := rand.New(rand.NewSource(23))
 	tried, moved := 0, 0
 	for range 700 {

@@ -42,7 +42,11 @@ func isNoWorld(t *testing.T, name string, w impl.World) {
 		if got := impl.WorldCalm(h.now, rounds); !same(got, impl.World{}) {
 			t.Errorf("%s: %d: %v", name, rounds, got)
 		}
+		if got, missed := impl.ClockRun(h.now, []impl.Beat{beat(0, 0, 1)}, 0, 1, rounds); !same(got, impl.World{}) || len(missed) > 0 {
+			t.Errorf("%s: %d: %v %v", name, rounds, got, missed)
+		}
 	}
+	isNoPlant(t, name, impl.Plant{World: h.now, Saved: make([]impl.Part, 3)})
 	if !h.isUntouched() {
 		t.Errorf("%s: an argument was written", name)
 	}
@@ -587,6 +591,7 @@ func TestP33LongFrames(t *testing.T) {
 }
 
 func TestP33WhateverHappens(t *testing.T) {
+	t.Parallel()
 	r := rand.New(rand.NewSource(34))
 	done := map[int]int{}
 	for _, n := range slices.Concat(wiredNets(r, 100), livelyNets(r, 100)) {

@@ -316,14 +316,20 @@ func keepsCalm(t *testing.T, w impl.World, rounds int) impl.World {
 // happens does all events to a world, each of which can be.
 func happens(t *testing.T, w impl.World, list ...impl.Event) impl.World {
 	t.Helper()
+	return inTurn(t, keepsWorldDo, w, list)
+}
+
+// inTurn does all events to a thing, each of which can be.
+func inTurn[T any](t *testing.T, do func(*testing.T, T, impl.Event) (T, bool), x T, list []impl.Event) T {
+	t.Helper()
 	for i, e := range list {
-		next, ok := keepsWorldDo(t, w, e)
+		next, ok := do(t, x, e)
 		if !ok {
-			t.Fatalf("%d: %v cannot be: %v", i, e, w)
+			t.Fatalf("%d: %v cannot be: %v", i, e, x)
 		}
-		w = next
+		x = next
 	}
-	return w
+	return x
 }
 
 // sizedLists is lists at an end of a wire whose event brings so many values.
