@@ -59,6 +59,11 @@ func isNoPlantOf(t *testing.T, name string, n impl.Net) {
 			t.Errorf("%s: played: %v", name, got)
 		}
 	}
+	for _, story := range []string{"", "push 0\n", "tick 0\nfall 0\n", "what\n"} {
+		if got, ok := impl.StoryRun(n, story); ok || !same(got, impl.Plant{}) {
+			t.Errorf("%s: %q: %v %v", name, story, ok, got)
+		}
+	}
 }
 
 func TestP63NewPlants(t *testing.T) {
